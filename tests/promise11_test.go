@@ -1,0 +1,91 @@
+package tests
+
+import (
+	"strings"
+	"testing"
+
+	"loop.example/g01221/impl"
+)
+
+// stackCalls are the calls of chapter 1.
+func stackCalls() []namedCall {
+	return []namedCall{
+		{"IsStack", func(g given) []any { return []any{impl.IsStack(g.first)} }},
+		{"IsSortedStack", func(g given) []any { a, ok := impl.IsSortedStack(g.first); return []any{a, ok} }},
+		{"TurnStack", func(g given) []any { a, ok := impl.TurnStack(g.first, g.x); return []any{a, ok} }},
+		{"IsPlan", func(g given) []any { return []any{impl.IsPlan(g.x, g.second)} }},
+		{"PlayPlan", func(g given) []any { a, ok := impl.PlayPlan(g.first, g.second); return []any{a, ok} }},
+		{"StacksAlong", func(g given) []any { a, ok := impl.StacksAlong(g.first, g.second); return []any{a, ok} }},
+		{"SortsStack", func(g given) []any { a, ok := impl.SortsStack(g.first, g.second); return []any{a, ok} }},
+		{"BackPlan", func(g given) []any { a, ok := impl.BackPlan(g.x, g.second); return []any{a, ok} }},
+		{"ShortPlan", func(g given) []any { a, ok := impl.ShortPlan(g.x, g.second); return []any{a, ok} }},
+		{"PlaceIn", func(g given) []any { a, ok := impl.PlaceIn(g.first, g.x); return []any{a, ok} }},
+		{"TopTo", func(g given) []any { a, ok := impl.TopTo(g.first, g.x); return []any{a, ok} }},
+		{"BringTo", func(g given) []any { a, ok := impl.BringTo(g.first, g.x, g.y); return []any{a, ok} }},
+		{"ThenStack", func(g given) []any { a, ok := impl.ThenStack(g.first, g.second); return []any{a, ok} }},
+		{"InverseStack", func(g given) []any { a, ok := impl.InverseStack(g.first); return []any{a, ok} }},
+		{"BackStack", func(g given) []any { a, ok := impl.BackStack(g.first); return []any{a, ok} }},
+		{"SwapSizes", func(g given) []any { a, ok := impl.SwapSizes(g.first); return []any{a, ok} }},
+		{"StackOfPlan", func(g given) []any { a, ok := impl.StackOfPlan(g.x, g.second); return []any{a, ok} }},
+		{"AreSamePlans", func(g given) []any { a, ok := impl.AreSamePlans(g.x, g.first, g.second); return []any{a, ok} }},
+		{"StackText", func(g given) []any { a, ok := impl.StackText(g.first); return []any{a, ok} }},
+		{"ParseStack", func(g given) []any { a, ok := impl.ParseStack(g.text); return []any{a, ok} }},
+	}
+}
+
+// givenForMemory are arguments that calls of chapter 1 take, and some that they do not.
+func givenForMemory() []given {
+	var all []given
+	for _, s := range someStacks() {
+		n := len(s)
+		text := ""
+		for _, size := range s {
+			text += string("0123456789"[size])
+		}
+		all = append(all,
+			given{s, modelTurn(s, n), n, 1, text},
+			given{s, nil, 1, n, text},
+			given{climbing(n, modelMaxPlan), climbing(n, modelMaxPlan), n, n, ""},
+			given{s, climbing(n, modelMaxPlan), n, n, text},
+			given{s, repeated(n, modelMaxPlan), (n + 1) / 2, n, text},
+			given{s, []int{n, 1, n, n, 1}, n, n, text},
+			given{s, repeated(n, modelMaxPlan+1), n + 1, 1, text + "1"},
+		)
+	}
+	for _, s := range noStacks() {
+		all = append(all, given{s, s, len(s), 1, "x"}, given{modelSorted(9), s, 9, 9, ""}, given{s, modelSorted(9), 9, 0, ""})
+	}
+	return all
+}
+
+func TestArgumentsStayAsTheyWere(t *testing.T) {
+	for _, c := range stackCalls() {
+		for _, g := range givenForMemory() {
+			checkMemory(t, c, g)
+		}
+	}
+}
+
+// anyLists are lists of all kinds: stacks, plans and neither.
+func anyLists() [][]int {
+	lists := append(noStacks(), allStacks(3)...)
+	lists = append(lists, modelSorted(1), modelSorted(9), modelTurn(modelSorted(9), 9), []int{minInt, maxInt, 0})
+	lists = append(lists, repeated(1, modelMaxPlan), repeated(1, modelMaxPlan+1), climbing(9, modelMaxPlan), repeated(9, 100000), repeated(minInt, 3))
+	return lists
+}
+
+func TestCallsAcceptAllArguments(t *testing.T) {
+	lists := anyLists()
+	numbers := []int{minInt, -1, 0, 1, 2, 3, 9, 10, 1 << 32, maxInt}
+	texts := []string{"", "1", "312", "0", "x", "\x00", "\xff\xfe", "123456789", "1234567890", strings.Repeat("9", 100000)}
+	for _, c := range stackCalls() {
+		for _, first := range lists {
+			for _, second := range lists {
+				for i, x := range numbers {
+					y := numbers[(i*3+len(first))%len(numbers)]
+					checkFailure(t, c, given{first, second, x, y, texts[i]})
+				}
+			}
+		}
+	}
+}
