@@ -33,7 +33,39 @@ func stackCalls() []namedCall {
 	}
 }
 
-// givenForMemory are arguments that calls of chapter 1 take, and some that they do not.
+// gapCalls are the calls of chapter 2 that take a stack.
+func gapCalls() []namedCall {
+	return []namedCall{
+		{"GapsOf", func(g given) []any { a, ok := impl.GapsOf(g.first); return []any{a, ok} }},
+		{"CountGaps", func(g given) []any { a, ok := impl.CountGaps(g.first); return []any{a, ok} }},
+		{"LowerBound", func(g given) []any { a, ok := impl.LowerBound(g.first); return []any{a, ok} }},
+		{"StripsOf", func(g given) []any { a, ok := impl.StripsOf(g.first); return []any{a, ok} }},
+		{"GreedyPlan", func(g given) []any { a, ok := impl.GreedyPlan(g.first); return []any{a, ok} }},
+		{"GreedyLength", func(g given) []any { a, ok := impl.GreedyLength(g.first); return []any{a, ok} }},
+		{"GapTurns", func(g given) []any { a, ok := impl.GapTurns(g.first); return []any{a, ok} }},
+		{"GapPlan", func(g given) []any { a, ok := impl.GapPlan(g.first); return []any{a, ok} }},
+		{"IsWaste", func(g given) []any { a, ok := impl.IsWaste(g.first, g.x); return []any{a, ok} }},
+		{"CountGoodPairs", func(g given) []any { a, ok := impl.CountGoodPairs(g.first); return []any{a, ok} }},
+		{"GapsAlong", func(g given) []any { a, ok := impl.GapsAlong(g.first, g.second); return []any{a, ok} }},
+		{"TwoTurnSorts", func(g given) []any { a, ok := impl.TwoTurnSorts(g.first); return []any{a, ok} }},
+	}
+}
+
+// numberCalls are the calls that take a number of pancakes alone, and search for long.
+func numberCalls() []namedCall {
+	return []namedCall{
+		{"CountNoPairs", func(g given) []any { a, ok := impl.CountNoPairs(g.x); return []any{a, ok} }},
+		{"FirstNoPair", func(g given) []any { a, ok := impl.FirstNoPair(g.x); return []any{a, ok} }},
+		{"MostByGreedy", func(g given) []any { a, b, ok := impl.MostByGreedy(g.x); return []any{a, b, ok} }},
+	}
+}
+
+// listCalls are the calls that take lists or texts.
+func listCalls() []namedCall {
+	return append(stackCalls(), gapCalls()...)
+}
+
+// givenForMemory are arguments that calls of lists take, and some that they do not.
 func givenForMemory() []given {
 	var all []given
 	for _, s := range someStacks() {
@@ -59,9 +91,14 @@ func givenForMemory() []given {
 }
 
 func TestArgumentsStayAsTheyWere(t *testing.T) {
-	for _, c := range stackCalls() {
+	for _, c := range listCalls() {
 		for _, g := range givenForMemory() {
 			checkMemory(t, c, g)
+		}
+	}
+	for _, c := range numberCalls() {
+		for _, x := range someNumbers() {
+			checkMemory(t, c, given{x: x})
 		}
 	}
 }
@@ -78,7 +115,7 @@ func TestCallsAcceptAllArguments(t *testing.T) {
 	lists := anyLists()
 	numbers := []int{minInt, -1, 0, 1, 2, 3, 9, 10, 1 << 32, maxInt}
 	texts := []string{"", "1", "312", "0", "x", "\x00", "\xff\xfe", "123456789", "1234567890", strings.Repeat("9", 100000)}
-	for _, c := range stackCalls() {
+	for _, c := range listCalls() {
 		for _, first := range lists {
 			for _, second := range lists {
 				for i, x := range numbers {
@@ -86,6 +123,11 @@ func TestCallsAcceptAllArguments(t *testing.T) {
 					checkFailure(t, c, given{first, second, x, y, texts[i]})
 				}
 			}
+		}
+	}
+	for _, c := range numberCalls() {
+		for _, x := range append(someNumbers(), numbers...) {
+			checkFailure(t, c, given{x: x})
 		}
 	}
 }
