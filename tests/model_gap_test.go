@@ -118,28 +118,3 @@ func modelTwoTurns(s []int) ([]int, bool) {
 	}
 	return nil, false
 }
-
-// modelDistances returns, for all stacks of n pancakes by their sizes, the least
-// numbers of turns that sort them: from the sorted stack on, as turns are undone.
-func modelDistances(n int) map[[modelMaxStack]int]int {
-	key := func(s []int) (k [modelMaxStack]int) {
-		copy(k[:], s)
-		return k
-	}
-	layer := [][]int{modelSorted(n)}
-	distances := map[[modelMaxStack]int]int{key(layer[0]): 0}
-	for turns := 1; len(layer) > 0; turns++ {
-		var further [][]int
-		for _, s := range layer {
-			for k := 2; k <= n; k++ {
-				turned := modelTurn(s, k)
-				if _, seen := distances[key(turned)]; !seen {
-					distances[key(turned)] = turns
-					further = append(further, turned)
-				}
-			}
-		}
-		layer = further
-	}
-	return distances
-}

@@ -1,6 +1,7 @@
 package tests
 
 import (
+	"slices"
 	"strings"
 	"testing"
 
@@ -51,18 +52,38 @@ func gapCalls() []namedCall {
 	}
 }
 
-// numberCalls are the calls that take a number of pancakes alone, and search for long.
+// farCalls are the calls of chapter 3 that take a stack.
+func farCalls() []namedCall {
+	return []namedCall{
+		{"StackDistance", func(g given) []any { a, ok := impl.StackDistance(g.first); return []any{a, ok} }},
+		{"LeastPlan", func(g given) []any { a, ok := impl.LeastPlan(g.first); return []any{a, ok} }},
+		{"CountLeastPlans", func(g given) []any { a, ok := impl.CountLeastPlans(g.first); return []any{a, ok} }},
+		{"CloserTurns", func(g given) []any { a, ok := impl.CloserTurns(g.first); return []any{a, ok} }},
+		{"DistanceBetween", func(g given) []any { a, ok := impl.DistanceBetween(g.first, g.second); return []any{a, ok} }},
+		{"PlanBetween", func(g given) []any { a, ok := impl.PlanBetween(g.first, g.second); return []any{a, ok} }},
+		{"GapExcess", func(g given) []any { a, ok := impl.GapExcess(g.first); return []any{a, ok} }},
+		{"GreedyExcess", func(g given) []any { a, ok := impl.GreedyExcess(g.first); return []any{a, ok} }},
+		{"IsLeastPlan", func(g given) []any { a, ok := impl.IsLeastPlan(g.first, g.second); return []any{a, ok} }},
+		{"MiddleStacks", func(g given) []any { a, ok := impl.MiddleStacks(g.first, g.second); return []any{a, ok} }},
+	}
+}
+
+// numberCalls are the calls that take numbers alone, and search for long.
 func numberCalls() []namedCall {
 	return []namedCall{
 		{"CountNoPairs", func(g given) []any { a, ok := impl.CountNoPairs(g.x); return []any{a, ok} }},
 		{"FirstNoPair", func(g given) []any { a, ok := impl.FirstNoPair(g.x); return []any{a, ok} }},
 		{"MostByGreedy", func(g given) []any { a, b, ok := impl.MostByGreedy(g.x); return []any{a, b, ok} }},
+		{"CountByTurns", func(g given) []any { a, ok := impl.CountByTurns(g.x); return []any{a, ok} }},
+		{"WorstDistance", func(g given) []any { a, ok := impl.WorstDistance(g.x); return []any{a, ok} }},
+		{"WorstStacks", func(g given) []any { a, ok := impl.WorstStacks(g.x); return []any{a, ok} }},
+		{"CountClosedPlans", func(g given) []any { a, ok := impl.CountClosedPlans(g.x, g.y); return []any{a, ok} }},
 	}
 }
 
 // listCalls are the calls that take lists or texts.
 func listCalls() []namedCall {
-	return append(stackCalls(), gapCalls()...)
+	return slices.Concat(stackCalls(), gapCalls(), farCalls())
 }
 
 // givenForMemory are arguments that calls of lists take, and some that they do not.
@@ -98,7 +119,7 @@ func TestArgumentsStayAsTheyWere(t *testing.T) {
 	}
 	for _, c := range numberCalls() {
 		for _, x := range someNumbers() {
-			checkMemory(t, c, given{x: x})
+			checkMemory(t, c, given{x: x, y: modelMaxClosed})
 		}
 	}
 }
@@ -127,7 +148,8 @@ func TestCallsAcceptAllArguments(t *testing.T) {
 	}
 	for _, c := range numberCalls() {
 		for _, x := range append(someNumbers(), numbers...) {
-			checkFailure(t, c, given{x: x})
+			checkFailure(t, c, given{x: x, y: modelMaxClosed})
+			checkFailure(t, c, given{x: min(max(x, 1), modelMaxSearch), y: x})
 		}
 	}
 }
