@@ -383,11 +383,10 @@ func TestClosedPlans(t *testing.T) {
 	}
 }
 
-// TestClosedPlansAreCounted makes all turns of all plans, up to a length that takes little time.
+// TestClosedPlansAreCounted makes all turns of all plans.
 func TestClosedPlansAreCounted(t *testing.T) {
-	longest := []int{8, 8, 8, 8, 8, 7, 6}
 	for n := 1; n <= modelMaxSearch; n++ {
-		for k := 0; k <= longest[n-1]; k++ {
+		for k := 0; k <= modelMaxClosed; k++ {
 			got, ok := impl.CountClosedPlans(n, k)
 			expect(t, "CountClosedPlans", args(n, k), got, ok, modelClosed(modelSorted(n), k), true)
 		}
