@@ -5,8 +5,9 @@ import "slices"
 const MaxStack = 9
 const MaxPlan = 40
 
-// tower is a stack as a value. The places below its last pancake hold 0, so
-// that towers can be compared whatever their numbers of pancakes are.
+// tower is a stack, or a burnt one (chapter 4), as a value. The places below its
+// last pancake hold 0, so that towers can be compared whatever their numbers of
+// pancakes are.
 type tower [MaxStack]int
 
 func towerOf(s []int) tower {

@@ -30,13 +30,20 @@ func modelDistances(n int) map[modelKey]int {
 
 // modelDistancesFrom returns the same for the turns that lead to another stack.
 func modelDistancesFrom(s []int) map[modelKey]int {
+	return modelDistancesBy(modelTurn, s)
+}
+
+// A modelStep returns what a turn makes of a stack.
+type modelStep func(s []int, k int) []int
+
+func modelDistancesBy(step modelStep, s []int) map[modelKey]int {
 	layer := [][]int{s}
 	distances := map[modelKey]int{keyOf(s): 0}
 	for turns := 1; len(layer) > 0; turns++ {
 		var further [][]int
 		for _, s := range layer {
-			for k := 2; k <= len(s); k++ {
-				turned := modelTurn(s, k)
+			for k := 1; k <= len(s); k++ {
+				turned := step(s, k)
 				if _, seen := distances[keyOf(turned)]; !seen {
 					distances[keyOf(turned)] = turns
 					further = append(further, turned)
@@ -50,9 +57,13 @@ func modelDistancesFrom(s []int) map[modelKey]int {
 
 // modelCloser returns the turns that lead nearer to the stack from which the distances are.
 func modelCloser(s []int, distances map[modelKey]int) []int {
+	return modelCloserBy(modelTurn, s, distances)
+}
+
+func modelCloserBy(step modelStep, s []int, distances map[modelKey]int) []int {
 	var turns []int
 	for k := 1; k <= len(s); k++ {
-		if distances[keyOf(modelTurn(s, k))] < distances[keyOf(s)] {
+		if distances[keyOf(step(s, k))] < distances[keyOf(s)] {
 			turns = append(turns, k)
 		}
 	}
@@ -60,11 +71,15 @@ func modelCloser(s []int, distances map[modelKey]int) []int {
 }
 
 func modelFirstPlan(s []int, distances map[modelKey]int) []int {
+	return modelFirstPlanBy(modelTurn, s, distances)
+}
+
+func modelFirstPlanBy(step modelStep, s []int, distances map[modelKey]int) []int {
 	var plan []int
 	for distances[keyOf(s)] > 0 {
-		k := modelCloser(s, distances)[0]
+		k := modelCloserBy(step, s, distances)[0]
 		plan = append(plan, k)
-		s = modelTurn(s, k)
+		s = step(s, k)
 	}
 	return plan
 }

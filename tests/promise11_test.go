@@ -68,6 +68,25 @@ func farCalls() []namedCall {
 	}
 }
 
+// burntCalls are the calls of chapter 4 that take a list or a text.
+func burntCalls() []namedCall {
+	return []namedCall{
+		{"IsBurnt", func(g given) []any { return []any{impl.IsBurnt(g.first)} }},
+		{"TurnBurnt", func(g given) []any { a, ok := impl.TurnBurnt(g.first, g.x); return []any{a, ok} }},
+		{"PlayBurnt", func(g given) []any { a, ok := impl.PlayBurnt(g.first, g.second); return []any{a, ok} }},
+		{"IsBurntSorted", func(g given) []any { a, ok := impl.IsBurntSorted(g.first); return []any{a, ok} }},
+		{"BurntGaps", func(g given) []any { a, ok := impl.BurntGaps(g.first); return []any{a, ok} }},
+		{"BurntGreedy", func(g given) []any { a, ok := impl.BurntGreedy(g.first); return []any{a, ok} }},
+		{"BurntDistance", func(g given) []any { a, ok := impl.BurntDistance(g.first); return []any{a, ok} }},
+		{"LeastBurnt", func(g given) []any { a, ok := impl.LeastBurnt(g.first); return []any{a, ok} }},
+		{"ForgetSides", func(g given) []any { a, ok := impl.ForgetSides(g.first); return []any{a, ok} }},
+		{"DoubleStack", func(g given) []any { a, ok := impl.DoubleStack(g.first); return []any{a, ok} }},
+		{"HalveStack", func(g given) []any { a, ok := impl.HalveStack(g.first); return []any{a, ok} }},
+		{"BurntText", func(g given) []any { a, ok := impl.BurntText(g.first); return []any{a, ok} }},
+		{"ParseBurnt", func(g given) []any { a, ok := impl.ParseBurnt(g.text); return []any{a, ok} }},
+	}
+}
+
 // numberCalls are the calls that take numbers alone, and search for long.
 func numberCalls() []namedCall {
 	return []namedCall{
@@ -78,12 +97,15 @@ func numberCalls() []namedCall {
 		{"WorstDistance", func(g given) []any { a, ok := impl.WorstDistance(g.x); return []any{a, ok} }},
 		{"WorstStacks", func(g given) []any { a, ok := impl.WorstStacks(g.x); return []any{a, ok} }},
 		{"CountClosedPlans", func(g given) []any { a, ok := impl.CountClosedPlans(g.x, g.y); return []any{a, ok} }},
+		{"CountBurntBy", func(g given) []any { a, ok := impl.CountBurntBy(g.x); return []any{a, ok} }},
+		{"WorstBurnt", func(g given) []any { a, ok := impl.WorstBurnt(g.x); return []any{a, ok} }},
+		{"AllBurnt", func(g given) []any { a, ok := impl.AllBurnt(g.x); return []any{a, ok} }},
 	}
 }
 
 // listCalls are the calls that take lists or texts.
 func listCalls() []namedCall {
-	return slices.Concat(stackCalls(), gapCalls(), farCalls())
+	return slices.Concat(stackCalls(), gapCalls(), farCalls(), burntCalls())
 }
 
 // givenForMemory are arguments that calls of lists take, and some that they do not.
@@ -105,6 +127,16 @@ func givenForMemory() []given {
 			given{s, repeated(n, modelMaxPlan+1), n + 1, 1, text + "1"},
 		)
 	}
+	for _, s := range someBurnts() {
+		n := len(s)
+		text := modelBurntText(s)
+		all = append(all,
+			given{s, modelDouble(s), n, 1, text},
+			given{modelDouble(s), climbing(n, modelMaxPlan), 1, n, text + "-"},
+			given{s, climbing(n, modelMaxPlan), (n + 1) / 2, n, text},
+			given{s, repeated(n, modelMaxPlan+1), n + 1, 1, "-" + text},
+		)
+	}
 	for _, s := range noStacks() {
 		all = append(all, given{s, s, len(s), 1, "x"}, given{modelSorted(9), s, 9, 9, ""}, given{s, modelSorted(9), 9, 0, ""})
 	}
@@ -124,9 +156,10 @@ func TestArgumentsStayAsTheyWere(t *testing.T) {
 	}
 }
 
-// anyLists are lists of all kinds: stacks, plans and neither.
+// anyLists are lists of all kinds: stacks, burnt stacks, plans and neither.
 func anyLists() [][]int {
 	lists := append(noStacks(), allStacks(3)...)
+	lists = append(lists, []int{-1, -2}, []int{3, -1, 2}, modelDouble([]int{2, -1}), withSides(modelSorted(9), -1), []int{1, -1}, []int{1, minInt})
 	lists = append(lists, modelSorted(1), modelSorted(9), modelTurn(modelSorted(9), 9), []int{minInt, maxInt, 0})
 	lists = append(lists, repeated(1, modelMaxPlan), repeated(1, modelMaxPlan+1), climbing(9, modelMaxPlan), repeated(9, 100000), repeated(minInt, 3))
 	return lists
@@ -135,13 +168,14 @@ func anyLists() [][]int {
 func TestCallsAcceptAllArguments(t *testing.T) {
 	lists := anyLists()
 	numbers := []int{minInt, -1, 0, 1, 2, 3, 9, 10, 1 << 32, maxInt}
-	texts := []string{"", "1", "312", "0", "x", "\x00", "\xff\xfe", "123456789", "1234567890", strings.Repeat("9", 100000)}
+	texts := []string{"", "1", "312", "0", "x", "\x00", "\xff\xfe", "123456789", "1234567890", strings.Repeat("9", 100000), "-", "-1", "3-1-2", "--1", "1-", strings.Repeat("-", 100000), strings.Repeat("-9", 9)}
 	for _, c := range listCalls() {
 		for _, first := range lists {
 			for _, second := range lists {
 				for i, x := range numbers {
 					y := numbers[(i*3+len(first))%len(numbers)]
-					checkFailure(t, c, given{first, second, x, y, texts[i]})
+					text := texts[(i+len(second))%len(texts)]
+					checkFailure(t, c, given{first, second, x, y, text})
 				}
 			}
 		}
