@@ -42,6 +42,15 @@ func (w tower) list(n int) []int {
 	return s
 }
 
+// lists returns the stacks of n pancakes that towers are.
+func lists(towers []tower, n int) [][]int {
+	stacks := make([][]int, len(towers))
+	for i, w := range towers {
+		stacks[i] = w.list(n)
+	}
+	return stacks
+}
+
 // planOf leaves turns 1 out, as they change nothing.
 func planOf(turns ...int) []int {
 	plan := make([]int, 0, len(turns))
@@ -119,14 +128,7 @@ func StacksAlong(s []int, plan []int) ([][]int, bool) {
 	if !isPlanFor(s, plan) {
 		return nil, false
 	}
-	w := towerOf(s)
-	along := make([][]int, 0, len(plan)+1)
-	along = append(along, w.list(len(s)))
-	for _, k := range plan {
-		w = w.turned(k)
-		along = append(along, w.list(len(s)))
-	}
-	return along, true
+	return lists(along(towerOf(s), tower.turned, plan...), len(s)), true
 }
 
 // SortsStack reports whether a plan sorts a stack.

@@ -87,6 +87,24 @@ func burntCalls() []namedCall {
 	}
 }
 
+// topCalls are the calls of chapter 5 that take a stack.
+func topCalls() []namedCall {
+	return []namedCall{
+		{"TopStep", func(g given) []any { a, ok := impl.TopStep(g.first); return []any{a, ok} }},
+		{"TopGame", func(g given) []any { a, ok := impl.TopGame(g.first); return []any{a, ok} }},
+		{"TopSteps", func(g given) []any { a, ok := impl.TopSteps(g.first); return []any{a, ok} }},
+		{"TopEnd", func(g given) []any { a, ok := impl.TopEnd(g.first); return []any{a, ok} }},
+		{"StacksBefore", func(g given) []any { a, ok := impl.StacksBefore(g.first); return []any{a, ok} }},
+		{"IsHome", func(g given) []any { a, ok := impl.IsHome(g.first); return []any{a, ok} }},
+		{"TopsSeen", func(g given) []any { a, ok := impl.TopsSeen(g.first); return []any{a, ok} }},
+		{"BottomGame", func(g given) []any { a, ok := impl.BottomGame(g.first); return []any{a, ok} }},
+		{"CountGame", func(g given) []any { a, ok := impl.CountGame(g.first, g.x); return []any{a, ok} }},
+		{"CardGame", func(g given) []any { a, b, ok := impl.CardGame(g.first, g.x); return []any{a, b, ok} }},
+		{"TreeSize", func(g given) []any { a, ok := impl.TreeSize(g.first); return []any{a, ok} }},
+		{"DepthBefore", func(g given) []any { a, ok := impl.DepthBefore(g.first); return []any{a, ok} }},
+	}
+}
+
 // numberCalls are the calls that take numbers alone, and search for long.
 func numberCalls() []namedCall {
 	return []namedCall{
@@ -100,12 +118,15 @@ func numberCalls() []namedCall {
 		{"CountBurntBy", func(g given) []any { a, ok := impl.CountBurntBy(g.x); return []any{a, ok} }},
 		{"WorstBurnt", func(g given) []any { a, ok := impl.WorstBurnt(g.x); return []any{a, ok} }},
 		{"AllBurnt", func(g given) []any { a, ok := impl.AllBurnt(g.x); return []any{a, ok} }},
+		{"LongestTop", func(g given) []any { a, b, ok := impl.LongestTop(g.x); return []any{a, b, ok} }},
+		{"CountLongest", func(g given) []any { a, ok := impl.CountLongest(g.x); return []any{a, ok} }},
+		{"CountBySteps", func(g given) []any { a, ok := impl.CountBySteps(g.x); return []any{a, ok} }},
 	}
 }
 
 // listCalls are the calls that take lists or texts.
 func listCalls() []namedCall {
-	return slices.Concat(stackCalls(), gapCalls(), farCalls(), burntCalls())
+	return slices.Concat(stackCalls(), gapCalls(), farCalls(), burntCalls(), topCalls())
 }
 
 // givenForMemory are arguments that calls of lists take, and some that they do not.
