@@ -4,11 +4,14 @@ import (
 	"reflect"
 	"slices"
 	"testing"
+
+	"loop.example/g01221/impl"
 )
 
 // given is what a call may be given: each call takes of it what it needs.
 type given struct {
 	first, second []int
+	segments      []impl.Segment
 	x, y          int
 	text          string
 }
@@ -18,14 +21,26 @@ type namedCall struct {
 	run  func(g given) []any
 }
 
+func (g given) copied() given {
+	g.first, g.second, g.segments = slices.Clone(g.first), slices.Clone(g.second), slices.Clone(g.segments)
+	return g
+}
+
 // behind are the numbers in the spare capacity behind each list that is given.
 // They go on with what a list may hold, so that a program that reads them is found out.
 var behind = [2][]int{{1, 2, 3, 4}, {4, 3, 77, -1}}
 
-// withSpare returns the list with numbers behind its end, and all of its memory.
-func withSpare(list []int, spare []int) (short []int, whole []int) {
-	whole = slices.Concat(list, spare)
-	return whole[:len(list)], whole
+// withSpare returns the same with numbers behind the end of each list, and all of its memory.
+func (g given) withSpare(spare []int) (short given, whole given) {
+	whole = g
+	whole.first = slices.Concat(g.first, spare)
+	whole.second = slices.Concat(g.second, spare)
+	whole.segments = slices.Concat(g.segments, segmentsOf(spare...))
+	short = whole
+	short.first = whole.first[:len(g.first)]
+	short.second = whole.second[:len(g.second)]
+	short.segments = whole.segments[:len(g.segments)]
+	return short, whole
 }
 
 // checkMemory makes a call on lists with spare capacity, overwrites all that
@@ -33,23 +48,19 @@ func withSpare(list []int, spare []int) (short []int, whole []int) {
 // results are changed by this.
 func checkMemory(t *testing.T, c namedCall, g given) {
 	t.Helper()
-	want := c.run(given{slices.Clone(g.first), slices.Clone(g.second), g.x, g.y, g.text})
-	want = copied(want)
+	want := copied(c.run(g.copied()))
 	for _, spare := range behind {
-		a, b := g, g
-		var wholeFirst, wholeSecond []int
-		a.first, wholeFirst = withSpare(g.first, spare)
-		a.second, wholeSecond = withSpare(g.second, spare)
-		b.first, b.second = slices.Clone(wholeFirst), slices.Clone(wholeSecond)
-		got := c.run(a)
+		short, whole := g.withSpare(spare)
+		before := whole.copied()
+		got := c.run(short)
 		if !sameResults(got, want) {
 			t.Errorf("%s of %v is %v with %v behind its lists, but %v without", c.name, g, got, spare, want)
 		}
 		overwrite(t, c.name, got)
-		if !slices.Equal(wholeFirst, b.first) || !slices.Equal(wholeSecond, b.second) {
+		if !reflect.DeepEqual(whole, before) {
 			t.Errorf("%s of %v changes its arguments, or its results share their memory", c.name, g)
 		}
-		if again := c.run(a); !sameResults(again, want) {
+		if again := c.run(short); !sameResults(again, want) {
 			t.Errorf("%s of %v is %v when it is called again, not %v", c.name, g, again, want)
 		}
 	}
@@ -58,18 +69,18 @@ func checkMemory(t *testing.T, c namedCall, g given) {
 func copied(results []any) []any {
 	var out []any
 	for _, r := range results {
-		switch x := r.(type) {
-		case []int:
-			out = append(out, slices.Clone(x))
-		case [][]int:
-			var rows [][]int
-			for _, row := range x {
-				rows = append(rows, slices.Clone(row))
-			}
-			out = append(out, rows)
-		default:
-			out = append(out, r)
-		}
+		out = append(out, copiedValue(reflect.ValueOf(r)).Interface())
+	}
+	return out
+}
+
+func copiedValue(v reflect.Value) reflect.Value {
+	if v.Kind() != reflect.Slice {
+		return v
+	}
+	out := reflect.MakeSlice(v.Type(), v.Len(), v.Len())
+	for i := range v.Len() {
+		out.Index(i).Set(copiedValue(v.Index(i)))
 	}
 	return out
 }
@@ -77,38 +88,60 @@ func copied(results []any) []any {
 // sameResults takes nil and empty lists as the same.
 func sameResults(a []any, b []any) bool {
 	return slices.EqualFunc(a, b, func(x any, y any) bool {
-		switch x := x.(type) {
-		case []int:
-			return slices.Equal(x, y.([]int))
-		case [][]int:
-			return slices.EqualFunc(x, y.([][]int), slices.Equal[[]int])
-		}
-		return reflect.DeepEqual(x, y)
+		return sameValues(reflect.ValueOf(x), reflect.ValueOf(y))
 	})
 }
 
-// overwrite fills all slices of the results, with their spare capacity, each
+func sameValues(a reflect.Value, b reflect.Value) bool {
+	if a.Kind() != reflect.Slice || b.Kind() != reflect.Slice {
+		return a.Equal(b)
+	}
+	same := a.Len() == b.Len()
+	for i := 0; same && i < a.Len(); i++ {
+		same = sameValues(a.Index(i), b.Index(i))
+	}
+	return same
+}
+
+// numbersIn returns the numbers of each list of a result, with those in the
+// structs of a list and those in its spare capacity.
+func numbersIn(v reflect.Value) [][]reflect.Value {
+	if v.Kind() != reflect.Slice {
+		return nil
+	}
+	var lists [][]reflect.Value
+	var numbers []reflect.Value
+	whole := v.Slice(0, v.Cap())
+	for i := range whole.Len() {
+		switch x := whole.Index(i); x.Kind() {
+		case reflect.Slice:
+			lists = append(lists, numbersIn(x)...)
+		case reflect.Struct:
+			for j := range x.NumField() {
+				numbers = append(numbers, x.Field(j))
+			}
+		default:
+			numbers = append(numbers, x)
+		}
+	}
+	return append(lists, numbers)
+}
+
+// overwrite fills all lists of the results, with their spare capacity, each
 // with a number of its own, which must still be there when all are filled.
 func overwrite(t *testing.T, name string, results []any) {
 	t.Helper()
-	var slicesOf [][]int
+	var lists [][]reflect.Value
 	for _, r := range results {
-		switch x := r.(type) {
-		case []int:
-			slicesOf = append(slicesOf, x[:cap(x)])
-		case [][]int:
-			for _, row := range x {
-				slicesOf = append(slicesOf, row[:cap(row)])
-			}
+		lists = append(lists, numbersIn(reflect.ValueOf(r))...)
+	}
+	for i, list := range lists {
+		for _, x := range list {
+			x.SetInt(int64(-1000 - i))
 		}
 	}
-	for i, list := range slicesOf {
-		for j := range list {
-			list[j] = -1000 - i
-		}
-	}
-	for i, list := range slicesOf {
-		if slices.ContainsFunc(list, func(x int) bool { return x != -1000-i }) {
+	for i, list := range lists {
+		if slices.ContainsFunc(list, func(x reflect.Value) bool { return x.Int() != int64(-1000-i) }) {
 			t.Errorf("%s returns slices that share memory", name)
 		}
 	}

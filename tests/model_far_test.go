@@ -37,16 +37,27 @@ func modelDistancesFrom(s []int) map[modelKey]int {
 type modelStep func(s []int, k int) []int
 
 func modelDistancesBy(step modelStep, s []int) map[modelKey]int {
+	return modelDistancesAlong(s, func(s []int) [][]int {
+		var turned [][]int
+		for k := 1; k <= len(s); k++ {
+			turned = append(turned, step(s, k))
+		}
+		return turned
+	})
+}
+
+// modelDistancesAlong returns the least numbers of steps from a stack, of which
+// next returns what the steps from one make of it.
+func modelDistancesAlong(s []int, next func(s []int) [][]int) map[modelKey]int {
 	layer := [][]int{s}
 	distances := map[modelKey]int{keyOf(s): 0}
-	for turns := 1; len(layer) > 0; turns++ {
+	for steps := 1; len(layer) > 0; steps++ {
 		var further [][]int
 		for _, s := range layer {
-			for k := 1; k <= len(s); k++ {
-				turned := step(s, k)
-				if _, seen := distances[keyOf(turned)]; !seen {
-					distances[keyOf(turned)] = turns
-					further = append(further, turned)
+			for _, other := range next(s) {
+				if _, seen := distances[keyOf(other)]; !seen {
+					distances[keyOf(other)] = steps
+					further = append(further, other)
 				}
 			}
 		}

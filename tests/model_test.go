@@ -182,7 +182,7 @@ func isIn(k int, n int) bool {
 }
 
 // expectList checks a list and the success that comes with it: what fails has no list.
-func expectList(t *testing.T, call string, args []any, got []int, ok bool, want []int, wantOk bool) {
+func expectList[T comparable](t *testing.T, call string, args []any, got []T, ok bool, want []T, wantOk bool) {
 	t.Helper()
 	if !wantOk {
 		want = nil

@@ -105,6 +105,27 @@ func topCalls() []namedCall {
 	}
 }
 
+func segmentIn(g given) impl.Segment { return impl.Segment{From: g.x, To: g.y} }
+
+// segmentCalls are the calls of chapter 6 that take a stack, a plan or a segment.
+func segmentCalls() []namedCall {
+	return []namedCall{
+		{"IsSegment", func(g given) []any { return []any{impl.IsSegment(len(g.first), segmentIn(g))} }},
+		{"TurnSegment", func(g given) []any { a, ok := impl.TurnSegment(g.first, segmentIn(g)); return []any{a, ok} }},
+		{"PlaySegments", func(g given) []any { a, ok := impl.PlaySegments(g.first, g.segments); return []any{a, ok} }},
+		{"BreakPoints", func(g given) []any { a, ok := impl.BreakPoints(g.first); return []any{a, ok} }},
+		{"SegmentBound", func(g given) []any { a, ok := impl.SegmentBound(g.first); return []any{a, ok} }},
+		{"BestTurns", func(g given) []any { a, b, ok := impl.BestTurns(g.first); return []any{a, b, ok} }},
+		{"GreedySegments", func(g given) []any { a, ok := impl.GreedySegments(g.first); return []any{a, ok} }},
+		{"SelectionSegments", func(g given) []any { a, ok := impl.SelectionSegments(g.first); return []any{a, ok} }},
+		{"SegmentDistance", func(g given) []any { a, ok := impl.SegmentDistance(g.first); return []any{a, ok} }},
+		{"LeastSegments", func(g given) []any { a, ok := impl.LeastSegments(g.first); return []any{a, ok} }},
+		{"CountLeastSegments", func(g given) []any { a, ok := impl.CountLeastSegments(g.first); return []any{a, ok} }},
+		{"SegmentsOfPlan", func(g given) []any { a, ok := impl.SegmentsOfPlan(g.x, g.second); return []any{a, ok} }},
+		{"IsFallingStrip", func(g given) []any { a, ok := impl.IsFallingStrip(g.first, segmentIn(g)); return []any{a, ok} }},
+	}
+}
+
 // numberCalls are the calls that take numbers alone, and search for long.
 func numberCalls() []namedCall {
 	return []namedCall{
@@ -121,12 +142,14 @@ func numberCalls() []namedCall {
 		{"LongestTop", func(g given) []any { a, b, ok := impl.LongestTop(g.x); return []any{a, b, ok} }},
 		{"CountLongest", func(g given) []any { a, ok := impl.CountLongest(g.x); return []any{a, ok} }},
 		{"CountBySteps", func(g given) []any { a, ok := impl.CountBySteps(g.x); return []any{a, ok} }},
+		{"CountByDistance", func(g given) []any { a, ok := impl.CountByDistance(g.x); return []any{a, ok} }},
+		{"FarthestStacks", func(g given) []any { a, ok := impl.FarthestStacks(g.x); return []any{a, ok} }},
 	}
 }
 
-// listCalls are the calls that take lists or texts.
+// listCalls are the calls that take lists, texts or segments.
 func listCalls() []namedCall {
-	return slices.Concat(stackCalls(), gapCalls(), farCalls(), burntCalls(), topCalls())
+	return slices.Concat(stackCalls(), gapCalls(), farCalls(), burntCalls(), topCalls(), segmentCalls())
 }
 
 // givenForMemory are arguments that calls of lists take, and some that they do not.
@@ -139,27 +162,31 @@ func givenForMemory() []given {
 			text += string("0123456789"[size])
 		}
 		all = append(all,
-			given{s, modelTurn(s, n), n, 1, text},
-			given{s, nil, 1, n, text},
-			given{climbing(n, modelMaxPlan), climbing(n, modelMaxPlan), n, n, ""},
-			given{s, climbing(n, modelMaxPlan), n, n, text},
-			given{s, repeated(n, modelMaxPlan), (n + 1) / 2, n, text},
-			given{s, []int{n, 1, n, n, 1}, n, n, text},
-			given{s, repeated(n, modelMaxPlan+1), n + 1, 1, text + "1"},
+			given{first: s, second: modelTurn(s, n), x: n, y: 1, text: text},
+			given{first: s, segments: climbingSegments(n, modelMaxPlan), x: 1, y: n, text: text},
+			given{first: climbing(n, modelMaxPlan), second: climbing(n, modelMaxPlan), x: n, y: n},
+			given{first: s, second: climbing(n, modelMaxPlan), segments: climbingSegments(n, 3), x: n, y: n, text: text},
+			given{first: s, second: repeated(n, modelMaxPlan), segments: segmentsOf(1, n), x: (n + 1) / 2, y: n, text: text},
+			given{first: s, second: []int{n, 1, n, n, 1}, segments: segmentsOf(1, n, n, 1), x: n, y: n, text: text},
+			given{first: s, second: repeated(n, modelMaxPlan+1), segments: climbingSegments(n, modelMaxPlan+1), x: n + 1, y: 1, text: text + "1"},
 		)
 	}
 	for _, s := range someBurnts() {
 		n := len(s)
 		text := modelBurntText(s)
 		all = append(all,
-			given{s, modelDouble(s), n, 1, text},
-			given{modelDouble(s), climbing(n, modelMaxPlan), 1, n, text + "-"},
-			given{s, climbing(n, modelMaxPlan), (n + 1) / 2, n, text},
-			given{s, repeated(n, modelMaxPlan+1), n + 1, 1, "-" + text},
+			given{first: s, second: modelDouble(s), x: n, y: 1, text: text},
+			given{first: modelDouble(s), second: climbing(n, modelMaxPlan), x: 1, y: n, text: text + "-"},
+			given{first: s, second: climbing(n, modelMaxPlan), x: (n + 1) / 2, y: n, text: text},
+			given{first: s, second: repeated(n, modelMaxPlan+1), x: n + 1, y: 1, text: "-" + text},
 		)
 	}
 	for _, s := range noStacks() {
-		all = append(all, given{s, s, len(s), 1, "x"}, given{modelSorted(9), s, 9, 9, ""}, given{s, modelSorted(9), 9, 0, ""})
+		all = append(all,
+			given{first: s, second: s, segments: segmentsOf(1, 2), x: len(s), y: 1, text: "x"},
+			given{first: modelSorted(9), second: s, segments: segmentsOf(s...), x: 9, y: 9},
+			given{first: s, second: modelSorted(9), x: 9},
+		)
 	}
 	return all
 }
@@ -188,15 +215,19 @@ func anyLists() [][]int {
 
 func TestCallsAcceptAllArguments(t *testing.T) {
 	lists := anyLists()
+	segments := make([][]impl.Segment, len(lists))
+	for i, places := range lists {
+		segments[i] = segmentsOf(places...)
+	}
 	numbers := []int{minInt, -1, 0, 1, 2, 3, 9, 10, 1 << 32, maxInt}
 	texts := []string{"", "1", "312", "0", "x", "\x00", "\xff\xfe", "123456789", "1234567890", strings.Repeat("9", 100000), "-", "-1", "3-1-2", "--1", "1-", strings.Repeat("-", 100000), strings.Repeat("-9", 9)}
 	for _, c := range listCalls() {
 		for _, first := range lists {
-			for _, second := range lists {
+			for j, second := range lists {
 				for i, x := range numbers {
 					y := numbers[(i*3+len(first))%len(numbers)]
 					text := texts[(i+len(second))%len(texts)]
-					checkFailure(t, c, given{first, second, x, y, text})
+					checkFailure(t, c, given{first, second, segments[j], x, y, text})
 				}
 			}
 		}
