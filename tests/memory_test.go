@@ -12,6 +12,7 @@ import (
 type given struct {
 	first, second []int
 	segments      []impl.Segment
+	places        [4]int
 	x, y          int
 	text          string
 }

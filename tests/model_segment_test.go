@@ -151,15 +151,14 @@ func modelLeastLists(s []int, distances map[modelKey]int) [][]impl.Segment {
 	return lists
 }
 
-// allSegmentLists returns all lists of at most most segments for n, the shortest
-// first, and those of one length in order.
-func allSegmentLists(n int, most int) [][]impl.Segment {
-	segments := modelSegments(n)
-	var lists [][]impl.Segment
-	for _, plan := range allPlans(len(segments), most) {
-		var list []impl.Segment
+// allListsOf returns all lists of at most most of these, the shortest first, and
+// those of one length in their order.
+func allListsOf[T any](all []T, most int) [][]T {
+	var lists [][]T
+	for _, plan := range allPlans(len(all), most) {
+		var list []T
 		for _, k := range plan {
-			list = append(list, segments[k-1])
+			list = append(list, all[k-1])
 		}
 		lists = append(lists, list)
 	}

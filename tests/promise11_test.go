@@ -126,6 +126,30 @@ func segmentCalls() []namedCall {
 	}
 }
 
+func blockIn(g given) impl.Block { return blocksOf(g.places[:]...)[0] }
+
+func exchangeIn(g given) impl.Exchange { return exchangesOf(g.places[:]...)[0] }
+
+// blockCalls are the calls of chapter 7 that take a stack, a block move or an exchange.
+func blockCalls() []namedCall {
+	return []namedCall{
+		{"IsBlock", func(g given) []any { return []any{impl.IsBlock(g.x, blockIn(g))} }},
+		{"MoveBlock", func(g given) []any { a, ok := impl.MoveBlock(g.first, blockIn(g)); return []any{a, ok} }},
+		{"BackBlock", func(g given) []any { a, ok := impl.BackBlock(blockIn(g)); return []any{a, ok} }},
+		{"BlockBreaks", func(g given) []any { a, ok := impl.BlockBreaks(g.first); return []any{a, ok} }},
+		{"BlockBound", func(g given) []any { a, ok := impl.BlockBound(g.first); return []any{a, ok} }},
+		{"BlockDistance", func(g given) []any { a, ok := impl.BlockDistance(g.first); return []any{a, ok} }},
+		{"LeastBlocks", func(g given) []any { a, ok := impl.LeastBlocks(g.first); return []any{a, ok} }},
+		{"IsExchange", func(g given) []any { return []any{impl.IsExchange(g.x, exchangeIn(g))} }},
+		{"ExchangeBlocks", func(g given) []any { a, ok := impl.ExchangeBlocks(g.first, exchangeIn(g)); return []any{a, ok} }},
+		{"CyclesOfStack", func(g given) []any { a, ok := impl.CyclesOfStack(g.first); return []any{a, ok} }},
+		{"CountCycles", func(g given) []any { a, ok := impl.CountCycles(g.first); return []any{a, ok} }},
+		{"ExchangeDistance", func(g given) []any { a, ok := impl.ExchangeDistance(g.first); return []any{a, ok} }},
+		{"ExchangesToSort", func(g given) []any { a, ok := impl.ExchangesToSort(g.first); return []any{a, ok} }},
+		{"LeastExchanges", func(g given) []any { a, ok := impl.LeastExchanges(g.first); return []any{a, ok} }},
+	}
+}
+
 // numberCalls are the calls that take numbers alone, and search for long.
 func numberCalls() []namedCall {
 	return []namedCall{
@@ -144,12 +168,14 @@ func numberCalls() []namedCall {
 		{"CountBySteps", func(g given) []any { a, ok := impl.CountBySteps(g.x); return []any{a, ok} }},
 		{"CountByDistance", func(g given) []any { a, ok := impl.CountByDistance(g.x); return []any{a, ok} }},
 		{"FarthestStacks", func(g given) []any { a, ok := impl.FarthestStacks(g.x); return []any{a, ok} }},
+		{"CountByBlocks", func(g given) []any { a, ok := impl.CountByBlocks(g.x); return []any{a, ok} }},
+		{"CountByExchanges", func(g given) []any { a, ok := impl.CountByExchanges(g.x); return []any{a, ok} }},
 	}
 }
 
-// listCalls are the calls that take lists, texts or segments.
+// listCalls are the calls that take lists, texts, segments or places.
 func listCalls() []namedCall {
-	return slices.Concat(stackCalls(), gapCalls(), farCalls(), burntCalls(), topCalls(), segmentCalls())
+	return slices.Concat(stackCalls(), gapCalls(), farCalls(), burntCalls(), topCalls(), segmentCalls(), blockCalls())
 }
 
 // givenForMemory are arguments that calls of lists take, and some that they do not.
@@ -163,12 +189,12 @@ func givenForMemory() []given {
 		}
 		all = append(all,
 			given{first: s, second: modelTurn(s, n), x: n, y: 1, text: text},
-			given{first: s, segments: climbingSegments(n, modelMaxPlan), x: 1, y: n, text: text},
+			given{first: s, segments: climbingSegments(n, modelMaxPlan), places: [4]int{1, 1, n, n}, x: 1, y: n, text: text},
 			given{first: climbing(n, modelMaxPlan), second: climbing(n, modelMaxPlan), x: n, y: n},
-			given{first: s, second: climbing(n, modelMaxPlan), segments: climbingSegments(n, 3), x: n, y: n, text: text},
-			given{first: s, second: repeated(n, modelMaxPlan), segments: segmentsOf(1, n), x: (n + 1) / 2, y: n, text: text},
-			given{first: s, second: []int{n, 1, n, n, 1}, segments: segmentsOf(1, n, n, 1), x: n, y: n, text: text},
-			given{first: s, second: repeated(n, modelMaxPlan+1), segments: climbingSegments(n, modelMaxPlan+1), x: n + 1, y: 1, text: text + "1"},
+			given{first: s, second: climbing(n, modelMaxPlan), segments: climbingSegments(n, 3), places: [4]int{1, n - 1, n, n}, x: n, y: n, text: text},
+			given{first: s, second: repeated(n, modelMaxPlan), segments: segmentsOf(1, n), places: [4]int{1, 2, n - 1, n}, x: (n + 1) / 2, y: n, text: text},
+			given{first: s, second: []int{n, 1, n, n, 1}, segments: segmentsOf(1, n, n, 1), places: [4]int{n, n, 1, 1}, x: n, y: n, text: text},
+			given{first: s, second: repeated(n, modelMaxPlan+1), segments: climbingSegments(n, modelMaxPlan+1), places: [4]int{1, 1, n + 1, n + 1}, x: n + 1, y: 1, text: text + "1"},
 		)
 	}
 	for _, s := range someBurnts() {
@@ -183,7 +209,7 @@ func givenForMemory() []given {
 	}
 	for _, s := range noStacks() {
 		all = append(all,
-			given{first: s, second: s, segments: segmentsOf(1, 2), x: len(s), y: 1, text: "x"},
+			given{first: s, second: s, segments: segmentsOf(1, 2), places: [4]int{1, 1, 2, 2}, x: len(s), y: 1, text: "x"},
 			given{first: modelSorted(9), second: s, segments: segmentsOf(s...), x: 9, y: 9},
 			given{first: s, second: modelSorted(9), x: 9},
 		)
@@ -226,8 +252,9 @@ func TestCallsAcceptAllArguments(t *testing.T) {
 			for j, second := range lists {
 				for i, x := range numbers {
 					y := numbers[(i*3+len(first))%len(numbers)]
+					places := [4]int{x, y, numbers[(i+j)%len(numbers)], numbers[(i*7+j)%len(numbers)]}
 					text := texts[(i+len(second))%len(texts)]
-					checkFailure(t, c, given{first, second, segments[j], x, y, text})
+					checkFailure(t, c, given{first, second, segments[j], places, x, y, text})
 				}
 			}
 		}

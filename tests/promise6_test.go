@@ -147,7 +147,7 @@ func TestFirstSegmentsAreTurns(t *testing.T) {
 // lists that are too long or have others than segments in them, in front,
 // between and last.
 func someSegmentLists(n int) [][]impl.Segment {
-	lists := allSegmentLists(min(n, 3), 3)
+	lists := allListsOf(modelSegments(min(n, 3)), 3)
 	for _, length := range []int{modelMaxPlan - 1, modelMaxPlan, modelMaxPlan + 1, 17, 1000} {
 		climbs := climbingSegments(n, length)
 		falls := slices.Clone(climbs)
@@ -444,7 +444,7 @@ func TestSegmentDistances(t *testing.T) {
 // TestDistancesAreThoseOfShortestLists looks through all lists of segments.
 func TestDistancesAreThoseOfShortestLists(t *testing.T) {
 	for n := 1; n <= 5; n++ {
-		lists := allSegmentLists(n, n-1)
+		lists := allListsOf(modelSegments(n), n-1)
 		for _, s := range allStacks(n) {
 			var want [][]impl.Segment
 			for _, list := range lists {
