@@ -12,6 +12,8 @@ import (
 type given struct {
 	first, second []int
 	segments      []impl.Segment
+	moves         []impl.Insertion
+	rows, boxes   [][]int
 	places        [4]int
 	x, y          int
 	text          string
@@ -23,7 +25,9 @@ type namedCall struct {
 }
 
 func (g given) copied() given {
-	g.first, g.second, g.segments = slices.Clone(g.first), slices.Clone(g.second), slices.Clone(g.segments)
+	g.first, g.second = slices.Clone(g.first), slices.Clone(g.second)
+	g.segments, g.moves = slices.Clone(g.segments), slices.Clone(g.moves)
+	g.rows, g.boxes = slices.Clip(withRooms(g.rows, nil)), slices.Clip(withRooms(g.boxes, nil))
 	return g
 }
 
@@ -31,17 +35,54 @@ func (g given) copied() given {
 // They go on with what a list may hold, so that a program that reads them is found out.
 var behind = [2][]int{{1, 2, 3, 4}, {4, 3, 77, -1}}
 
-// withSpare returns the same with numbers behind the end of each list, and all of its memory.
-func (g given) withSpare(spare []int) (short given, whole given) {
-	whole = g
-	whole.first = slices.Concat(g.first, spare)
-	whole.second = slices.Concat(g.second, spare)
-	whole.segments = slices.Concat(g.segments, segmentsOf(spare...))
-	short = whole
-	short.first = whole.first[:len(g.first)]
-	short.second = whole.second[:len(g.second)]
-	short.segments = whole.segments[:len(g.segments)]
-	return short, whole
+// withRoom returns a list in new memory with others behind its end.
+func withRoom[T any](list []T, behind []T) []T {
+	return slices.Concat(list, behind)[:len(list)]
+}
+
+// withRooms does so with lists and with each of them.
+func withRooms(lists [][]int, behind []int) [][]int {
+	var all [][]int
+	for _, list := range lists {
+		all = append(all, withRoom(list, behind))
+	}
+	return withRoom(all, [][]int{slices.Clone(behind)})
+}
+
+// withSpare returns the same with numbers behind the end of each list.
+func (g given) withSpare(spare []int) given {
+	g.first, g.second = withRoom(g.first, spare), withRoom(g.second, spare)
+	g.segments = withRoom(g.segments, segmentsOf(spare...))
+	g.moves = withRoom(g.moves, movesOf(spare...))
+	g.rows, g.boxes = withRooms(g.rows, spare), withRooms(g.boxes, spare)
+	return g
+}
+
+// memory returns the lengths of the lists, and all numbers in them and in their room.
+func (g given) memory() []int {
+	var all []int
+	for _, list := range []any{g.first, g.second, g.segments, g.moves, g.rows, g.boxes} {
+		all = withMemory(all, reflect.ValueOf(list))
+	}
+	return all
+}
+
+func withMemory(all []int, v reflect.Value) []int {
+	switch v.Kind() {
+	case reflect.Slice:
+		all = append(all, v.Len())
+		whole := v.Slice(0, v.Cap())
+		for i := range whole.Len() {
+			all = withMemory(all, whole.Index(i))
+		}
+	case reflect.Struct:
+		for i := range v.NumField() {
+			all = withMemory(all, v.Field(i))
+		}
+	default:
+		all = append(all, int(v.Int()))
+	}
+	return all
 }
 
 // checkMemory makes a call on lists with spare capacity, overwrites all that
@@ -51,17 +92,17 @@ func checkMemory(t *testing.T, c namedCall, g given) {
 	t.Helper()
 	want := copied(c.run(g.copied()))
 	for _, spare := range behind {
-		short, whole := g.withSpare(spare)
-		before := whole.copied()
-		got := c.run(short)
+		roomy := g.withSpare(spare)
+		before := roomy.memory()
+		got := c.run(roomy)
 		if !sameResults(got, want) {
 			t.Errorf("%s of %v is %v with %v behind its lists, but %v without", c.name, g, got, spare, want)
 		}
 		overwrite(t, c.name, got)
-		if !reflect.DeepEqual(whole, before) {
+		if !slices.Equal(roomy.memory(), before) {
 			t.Errorf("%s of %v changes its arguments, or its results share their memory", c.name, g)
 		}
-		if again := c.run(short); !sameResults(again, want) {
+		if again := c.run(roomy); !sameResults(again, want) {
 			t.Errorf("%s of %v is %v when it is called again, not %v", c.name, g, again, want)
 		}
 	}

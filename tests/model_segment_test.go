@@ -39,11 +39,16 @@ func modelSegments(n int) []impl.Segment {
 
 // climbingSegments returns the segments for n again and again, none for one pancake.
 func climbingSegments(n int, length int) []impl.Segment {
-	var segments []impl.Segment
-	for all := modelSegments(n); len(all) > 0 && len(segments) < length; {
-		segments = append(segments, all...)
+	return againAndAgain(modelSegments(n), length)
+}
+
+// againAndAgain returns so many moves, all of these one after the other, none if there are none.
+func againAndAgain[T any](all []T, length int) []T {
+	var moves []T
+	for len(all) > 0 && len(moves) < length {
+		moves = append(moves, all...)
 	}
-	return segments[:min(length, len(segments))]
+	return moves[:min(length, len(moves))]
 }
 
 // modelTurnSegment puts the pancakes in front of a segment, those in it from

@@ -150,6 +150,29 @@ func blockCalls() []namedCall {
 	}
 }
 
+func moveIn(g given) impl.Insertion { return impl.Insertion{From: g.x, To: g.y} }
+
+// insertCalls are the calls of chapter 8 that take a stack, insertions, rows or a shape.
+func insertCalls() []namedCall {
+	return []namedCall{
+		{"MoveOne", func(g given) []any { a, ok := impl.MoveOne(g.first, moveIn(g)); return []any{a, ok} }},
+		{"PlayMoves", func(g given) []any { a, ok := impl.PlayMoves(g.first, g.moves); return []any{a, ok} }},
+		{"LongestRising", func(g given) []any { a, ok := impl.LongestRising(g.first); return []any{a, ok} }},
+		{"RisingLength", func(g given) []any { a, ok := impl.RisingLength(g.first); return []any{a, ok} }},
+		{"FallingLength", func(g given) []any { a, ok := impl.FallingLength(g.first); return []any{a, ok} }},
+		{"CountRising", func(g given) []any { a, ok := impl.CountRising(g.first); return []any{a, ok} }},
+		{"LeastMoves", func(g given) []any { a, ok := impl.LeastMoves(g.first); return []any{a, ok} }},
+		{"MovesToSort", func(g given) []any { a, ok := impl.MovesToSort(g.first); return []any{a, ok} }},
+		{"PilesOf", func(g given) []any { a, ok := impl.PilesOf(g.first); return []any{a, ok} }},
+		{"RowsOf", func(g given) []any { a, ok := impl.RowsOf(g.first); return []any{a, ok} }},
+		{"PlacesOfRows", func(g given) []any { a, ok := impl.PlacesOfRows(g.first); return []any{a, ok} }},
+		{"StackOfRows", func(g given) []any { a, ok := impl.StackOfRows(g.rows, g.boxes); return []any{a, ok} }},
+		{"ShapeOf", func(g given) []any { a, ok := impl.ShapeOf(g.first); return []any{a, ok} }},
+		{"CountTables", func(g given) []any { a, ok := impl.CountTables(g.first); return []any{a, ok} }},
+		{"AreRows", func(g given) []any { return []any{impl.AreRows(g.rows)} }},
+	}
+}
+
 // numberCalls are the calls that take numbers alone, and search for long.
 func numberCalls() []namedCall {
 	return []namedCall{
@@ -170,12 +193,13 @@ func numberCalls() []namedCall {
 		{"FarthestStacks", func(g given) []any { a, ok := impl.FarthestStacks(g.x); return []any{a, ok} }},
 		{"CountByBlocks", func(g given) []any { a, ok := impl.CountByBlocks(g.x); return []any{a, ok} }},
 		{"CountByExchanges", func(g given) []any { a, ok := impl.CountByExchanges(g.x); return []any{a, ok} }},
+		{"CountByRising", func(g given) []any { a, ok := impl.CountByRising(g.x); return []any{a, ok} }},
 	}
 }
 
-// listCalls are the calls that take lists, texts, segments or places.
+// listCalls are the calls that take lists, texts, segments, insertions, rows or places.
 func listCalls() []namedCall {
-	return slices.Concat(stackCalls(), gapCalls(), farCalls(), burntCalls(), topCalls(), segmentCalls(), blockCalls())
+	return slices.Concat(stackCalls(), gapCalls(), farCalls(), burntCalls(), topCalls(), segmentCalls(), blockCalls(), insertCalls())
 }
 
 // givenForMemory are arguments that calls of lists take, and some that they do not.
@@ -217,9 +241,37 @@ func givenForMemory() []given {
 	return all
 }
 
+// givenForInsertions are the same for chapter 8.
+func givenForInsertions() []given {
+	var all []given
+	for _, s := range someStacks() {
+		n := len(s)
+		climbs := againAndAgain(modelInsertions(n), modelMaxPlan+1)
+		rows, places := modelRows(s), modelPlaces(s)
+		all = append(all,
+			given{first: s, moves: climbs[:modelMaxPlan], rows: rows, boxes: places, x: 1, y: n},
+			given{first: s, moves: climbs, rows: places, boxes: rows, x: n, y: (n + 1) / 2},
+			given{first: modelLengths(rows), moves: movesOf(1, n), rows: rows, boxes: modelColumns(rows), x: 1, y: 1},
+			given{first: s, moves: movesOf(n, 1, 1, 1), rows: modelPiles(s), boxes: modelPiles(s), x: n, y: n},
+		)
+	}
+	for _, s := range noStacks() {
+		all = append(all, given{first: s, moves: movesOf(s...), rows: [][]int{s}, boxes: [][]int{s, s}})
+	}
+	for _, rows := range noRows() {
+		all = append(all, given{first: modelLengths(rows), rows: rows, boxes: rows})
+	}
+	return all
+}
+
 func TestArgumentsStayAsTheyWere(t *testing.T) {
 	for _, c := range listCalls() {
 		for _, g := range givenForMemory() {
+			checkMemory(t, c, g)
+		}
+	}
+	for _, c := range insertCalls() {
+		for _, g := range givenForInsertions() {
 			checkMemory(t, c, g)
 		}
 	}
@@ -242,8 +294,9 @@ func anyLists() [][]int {
 func TestCallsAcceptAllArguments(t *testing.T) {
 	lists := anyLists()
 	segments := make([][]impl.Segment, len(lists))
+	moves := make([][]impl.Insertion, len(lists))
 	for i, places := range lists {
-		segments[i] = segmentsOf(places...)
+		segments[i], moves[i] = segmentsOf(places...), movesOf(places...)
 	}
 	numbers := []int{minInt, -1, 0, 1, 2, 3, 9, 10, 1 << 32, maxInt}
 	texts := []string{"", "1", "312", "0", "x", "\x00", "\xff\xfe", "123456789", "1234567890", strings.Repeat("9", 100000), "-", "-1", "3-1-2", "--1", "1-", strings.Repeat("-", 100000), strings.Repeat("-9", 9)}
@@ -254,7 +307,7 @@ func TestCallsAcceptAllArguments(t *testing.T) {
 					y := numbers[(i*3+len(first))%len(numbers)]
 					places := [4]int{x, y, numbers[(i+j)%len(numbers)], numbers[(i*7+j)%len(numbers)]}
 					text := texts[(i+len(second))%len(texts)]
-					checkFailure(t, c, given{first, second, segments[j], places, x, y, text})
+					checkFailure(t, c, given{first, second, segments[j], moves[j], [][]int{first, second}, [][]int{second}, places, x, y, text})
 				}
 			}
 		}
@@ -263,6 +316,14 @@ func TestCallsAcceptAllArguments(t *testing.T) {
 		for _, x := range append(someNumbers(), numbers...) {
 			checkFailure(t, c, given{x: x, y: modelMaxClosed})
 			checkFailure(t, c, given{x: min(max(x, 1), modelMaxSearch), y: x})
+		}
+	}
+	tables := slices.Concat(noRows(), someRows())
+	for _, c := range insertCalls() {
+		for _, rows := range tables {
+			for _, boxes := range tables {
+				checkFailure(t, c, given{first: modelLengths(rows), rows: rows, boxes: boxes})
+			}
 		}
 	}
 }

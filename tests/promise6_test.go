@@ -143,20 +143,26 @@ func TestFirstSegmentsAreTurns(t *testing.T) {
 	}
 }
 
-// someSegmentLists returns lists of segments for n, of none up to MaxPlan, and
-// lists that are too long or have others than segments in them, in front,
-// between and last.
+// someSegmentLists returns lists of segments for n and lists that have others than segments in them.
 func someSegmentLists(n int) [][]impl.Segment {
-	lists := allListsOf(modelSegments(min(n, 3)), 3)
+	bads := segmentsOf(0, 1, 1, 1, n, n, 2, 1, n, 1, 1, n+1, n+1, n+2, -1, n, 0, n, 0, 0, minInt, maxInt, maxInt, minInt, 1, maxInt, 1, 10, 9, 10)
+	return someListsOf(modelSegments(min(n, 3)), modelSegments(n), impl.Segment{From: 1, To: n}, bads)
+}
+
+// someListsOf returns lists of moves, of none up to MaxPlan: short ones of few
+// of them, long ones of all and of one again and again, and lists that are too
+// long or have bad moves in them, in front, between and last.
+func someListsOf[T any](few []T, all []T, one T, bads []T) [][]T {
+	lists := allListsOf(few, 3)
 	for _, length := range []int{modelMaxPlan - 1, modelMaxPlan, modelMaxPlan + 1, 17, 1000} {
-		climbs := climbingSegments(n, length)
+		climbs := againAndAgain(all, length)
 		falls := slices.Clone(climbs)
 		slices.Reverse(falls)
-		lists = append(lists, climbs, falls, slices.Repeat(segmentsOf(1, n), length))
+		lists = append(lists, climbs, falls, slices.Repeat([]T{one}, length))
 	}
-	for _, bad := range segmentsOf(0, 1, 1, 1, n, n, 2, 1, n, 1, 1, n+1, n+1, n+2, -1, n, 0, n, 0, 0, minInt, maxInt, maxInt, minInt, 1, maxInt, 1, 10, 9, 10) {
-		lists = append(lists, []impl.Segment{bad}, append(segmentsOf(1, n), bad), append([]impl.Segment{bad}, segmentsOf(1, n)...), slices.Concat(segmentsOf(1, n), []impl.Segment{bad}, segmentsOf(1, n)))
-		lists = append(lists, append(climbingSegments(n, modelMaxPlan-1), bad), append([]impl.Segment{bad}, climbingSegments(n, modelMaxPlan)...))
+	for _, bad := range bads {
+		lists = append(lists, []T{bad}, []T{one, bad}, []T{bad, one}, []T{one, bad, one})
+		lists = append(lists, append(againAndAgain(all, modelMaxPlan-1), bad), append([]T{bad}, againAndAgain(all, modelMaxPlan)...))
 	}
 	return lists
 }
