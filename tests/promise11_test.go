@@ -173,6 +173,25 @@ func insertCalls() []namedCall {
 	}
 }
 
+// shelfCalls are the calls of chapter 9 that take a shelf.
+func shelfCalls() []namedCall {
+	return []namedCall{
+		{"AreAsked", func(g given) []any { a, ok := impl.AreAsked(g.first, g.second); return []any{a, ok} }},
+		{"ShelfAfter", func(g given) []any { a, ok := impl.ShelfAfter(g.first, g.second, g.x); return []any{a, ok} }},
+		{"PlacesAsked", func(g given) []any { a, ok := impl.PlacesAsked(g.first, g.second, g.x); return []any{a, ok} }},
+		{"ShelfCost", func(g given) []any { a, ok := impl.ShelfCost(g.first, g.second, g.x); return []any{a, ok} }},
+		{"AskedByPlaces", func(g given) []any { a, ok := impl.AskedByPlaces(g.first, g.second, g.x); return []any{a, ok} }},
+		{"BestFixed", func(g given) []any { a, ok := impl.BestFixed(g.first, g.second); return []any{a, ok} }},
+		{"FixedCost", func(g given) []any { a, ok := impl.FixedCost(g.first, g.second); return []any{a, ok} }},
+		{"FrontBound", func(g given) []any { a, ok := impl.FrontBound(g.first, g.second); return []any{a, ok} }},
+		{"CheapestRule", func(g given) []any { a, b, ok := impl.CheapestRule(g.first, g.second); return []any{a, b, ok} }},
+		{"LastAsked", func(g given) []any { a, ok := impl.LastAsked(g.first, g.second); return []any{a, ok} }},
+		{"AskedToReach", func(g given) []any { a, ok := impl.AskedToReach(g.first, g.second); return []any{a, ok} }},
+		{"WorstAsked", func(g given) []any { a, b, ok := impl.WorstAsked(g.first, g.y, g.x); return []any{a, b, ok} }},
+		{"PlanOfFront", func(g given) []any { a, ok := impl.PlanOfFront(g.first, g.second); return []any{a, ok} }},
+	}
+}
+
 // numberCalls are the calls that take numbers alone, and search for long.
 func numberCalls() []namedCall {
 	return []namedCall{
@@ -194,12 +213,13 @@ func numberCalls() []namedCall {
 		{"CountByBlocks", func(g given) []any { a, ok := impl.CountByBlocks(g.x); return []any{a, ok} }},
 		{"CountByExchanges", func(g given) []any { a, ok := impl.CountByExchanges(g.x); return []any{a, ok} }},
 		{"CountByRising", func(g given) []any { a, ok := impl.CountByRising(g.x); return []any{a, ok} }},
+		{"CountReached", func(g given) []any { a, ok := impl.CountReached(g.x, g.y, g.places[0]); return []any{a, ok} }},
 	}
 }
 
-// listCalls are the calls that take lists, texts, segments, insertions, rows or places.
+// listCalls are the calls that take lists, texts, segments, insertions, rows, places or rules.
 func listCalls() []namedCall {
-	return slices.Concat(stackCalls(), gapCalls(), farCalls(), burntCalls(), topCalls(), segmentCalls(), blockCalls(), insertCalls())
+	return slices.Concat(stackCalls(), gapCalls(), farCalls(), burntCalls(), topCalls(), segmentCalls(), blockCalls(), insertCalls(), shelfCalls())
 }
 
 // givenForMemory are arguments that calls of lists take, and some that they do not.
@@ -264,6 +284,27 @@ func givenForInsertions() []given {
 	return all
 }
 
+// givenForShelves are the same for chapter 9: x is the rule, and y how many books are asked for.
+func givenForShelves() []given {
+	var all []given
+	for _, s := range shelvesForAsking() {
+		n := len(s)
+		for _, rule := range append(modelRules(), modelStay+1) {
+			all = append(all,
+				given{first: s, second: climbing(n, modelMaxAsked), x: rule, y: modelMaxAsked},
+				given{first: s, second: climbing(n, modelMaxAsked+1), x: rule, y: modelMaxAsked + 1},
+				given{first: s, second: modelTurn(s, n), x: rule, y: n},
+				given{first: s, second: climbing(n, modelMaxPlan/2), x: rule, y: 1},
+				given{first: s, x: rule},
+			)
+		}
+	}
+	for _, s := range noStacks() {
+		all = append(all, given{first: s, second: s}, given{first: modelSorted(9), second: s, y: -1})
+	}
+	return all
+}
+
 func TestArgumentsStayAsTheyWere(t *testing.T) {
 	for _, c := range listCalls() {
 		for _, g := range givenForMemory() {
@@ -272,6 +313,11 @@ func TestArgumentsStayAsTheyWere(t *testing.T) {
 	}
 	for _, c := range insertCalls() {
 		for _, g := range givenForInsertions() {
+			checkMemory(t, c, g)
+		}
+	}
+	for _, c := range shelfCalls() {
+		for _, g := range givenForShelves() {
 			checkMemory(t, c, g)
 		}
 	}
@@ -316,6 +362,7 @@ func TestCallsAcceptAllArguments(t *testing.T) {
 		for _, x := range append(someNumbers(), numbers...) {
 			checkFailure(t, c, given{x: x, y: modelMaxClosed})
 			checkFailure(t, c, given{x: min(max(x, 1), modelMaxSearch), y: x})
+			checkFailure(t, c, given{x: 3, y: 2, places: [4]int{x}})
 		}
 	}
 	tables := slices.Concat(noRows(), someRows())
