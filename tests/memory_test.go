@@ -3,6 +3,7 @@ package tests
 import (
 	"reflect"
 	"slices"
+	"strconv"
 	"testing"
 
 	"loop.example/g01221/impl"
@@ -117,14 +118,21 @@ func copied(results []any) []any {
 }
 
 func copiedValue(v reflect.Value) reflect.Value {
-	if v.Kind() != reflect.Slice {
-		return v
+	switch v.Kind() {
+	case reflect.Slice:
+		out := reflect.MakeSlice(v.Type(), v.Len(), v.Len())
+		for i := range v.Len() {
+			out.Index(i).Set(copiedValue(v.Index(i)))
+		}
+		return out
+	case reflect.Struct:
+		out := reflect.New(v.Type()).Elem()
+		for i := range v.NumField() {
+			out.Field(i).Set(copiedValue(v.Field(i)))
+		}
+		return out
 	}
-	out := reflect.MakeSlice(v.Type(), v.Len(), v.Len())
-	for i := range v.Len() {
-		out.Index(i).Set(copiedValue(v.Index(i)))
-	}
-	return out
+	return v
 }
 
 // sameResults takes nil and empty lists as the same.
@@ -135,55 +143,78 @@ func sameResults(a []any, b []any) bool {
 }
 
 func sameValues(a reflect.Value, b reflect.Value) bool {
-	if a.Kind() != reflect.Slice || b.Kind() != reflect.Slice {
-		return a.Equal(b)
+	if a.Type() != b.Type() {
+		return false
 	}
-	same := a.Len() == b.Len()
-	for i := 0; same && i < a.Len(); i++ {
-		same = sameValues(a.Index(i), b.Index(i))
+	same := true
+	switch a.Kind() {
+	case reflect.Slice:
+		same = a.Len() == b.Len()
+		for i := 0; same && i < a.Len(); i++ {
+			same = sameValues(a.Index(i), b.Index(i))
+		}
+	case reflect.Struct:
+		for i := 0; same && i < a.NumField(); i++ {
+			same = sameValues(a.Field(i), b.Field(i))
+		}
+	default:
+		same = a.Equal(b)
 	}
 	return same
 }
 
-// numbersIn returns the numbers of each list of a result, with those in the
-// structs of a list and those in its spare capacity.
-func numbersIn(v reflect.Value) [][]reflect.Value {
-	if v.Kind() != reflect.Slice {
-		return nil
-	}
+// elementsIn returns the numbers and texts of each list of a result, be it in a
+// desk, with those in the structs of a list and those in its spare capacity.
+func elementsIn(v reflect.Value) [][]reflect.Value {
 	var lists [][]reflect.Value
-	var numbers []reflect.Value
-	whole := v.Slice(0, v.Cap())
-	for i := range whole.Len() {
-		switch x := whole.Index(i); x.Kind() {
-		case reflect.Slice:
-			lists = append(lists, numbersIn(x)...)
-		case reflect.Struct:
-			for j := range x.NumField() {
-				numbers = append(numbers, x.Field(j))
-			}
-		default:
-			numbers = append(numbers, x)
+	switch v.Kind() {
+	case reflect.Struct:
+		for i := range v.NumField() {
+			lists = append(lists, elementsIn(v.Field(i))...)
 		}
+	case reflect.Slice:
+		var elements []reflect.Value
+		whole := v.Slice(0, v.Cap())
+		for i := range whole.Len() {
+			switch x := whole.Index(i); x.Kind() {
+			case reflect.Slice:
+				lists = append(lists, elementsIn(x)...)
+			case reflect.Struct:
+				for j := range x.NumField() {
+					elements = append(elements, x.Field(j))
+				}
+			default:
+				elements = append(elements, x)
+			}
+		}
+		lists = append(lists, elements)
 	}
-	return append(lists, numbers)
+	return lists
+}
+
+// markFor returns what elements of the list with a number are overwritten with.
+func markFor(x reflect.Value, list int) reflect.Value {
+	if x.Kind() == reflect.String {
+		return reflect.ValueOf("list " + strconv.Itoa(list))
+	}
+	return reflect.ValueOf(-1000 - list)
 }
 
 // overwrite fills all lists of the results, with their spare capacity, each
-// with a number of its own, which must still be there when all are filled.
+// with a mark of its own, which must still be there when all are filled.
 func overwrite(t *testing.T, name string, results []any) {
 	t.Helper()
 	var lists [][]reflect.Value
 	for _, r := range results {
-		lists = append(lists, numbersIn(reflect.ValueOf(r))...)
+		lists = append(lists, elementsIn(reflect.ValueOf(r))...)
 	}
 	for i, list := range lists {
 		for _, x := range list {
-			x.SetInt(int64(-1000 - i))
+			x.Set(markFor(x, i))
 		}
 	}
 	for i, list := range lists {
-		if slices.ContainsFunc(list, func(x reflect.Value) bool { return x.Int() != int64(-1000-i) }) {
+		if slices.ContainsFunc(list, func(x reflect.Value) bool { return !x.Equal(markFor(x, i)) }) {
 			t.Errorf("%s returns slices that share memory", name)
 		}
 	}

@@ -192,6 +192,20 @@ func shelfCalls() []namedCall {
 	}
 }
 
+func deskIn(g given) impl.Desk { return impl.Desk{Stack: g.first, Made: g.x} }
+
+// consoleCalls are the calls of chapter 10.
+func consoleCalls() []namedCall {
+	return []namedCall{
+		{"FirstDesk", func(g given) []any { return []any{impl.FirstDesk(), true} }},
+		{"IsDesk", func(g given) []any { return []any{impl.IsDesk(deskIn(g))} }},
+		{"DeskLine", func(g given) []any { a, b, ok := impl.DeskLine(deskIn(g), g.text); return []any{a, b, ok} }},
+		{"RunScript", func(g given) []any { a, ok := impl.RunScript(g.text); return []any{a, ok} }},
+		{"DeskAfter", func(g given) []any { a, ok := impl.DeskAfter(g.text); return []any{a, ok} }},
+		{"FailedLines", func(g given) []any { a, ok := impl.FailedLines(g.text); return []any{a, ok} }},
+	}
+}
+
 // numberCalls are the calls that take numbers alone, and search for long.
 func numberCalls() []namedCall {
 	return []namedCall{
@@ -217,9 +231,9 @@ func numberCalls() []namedCall {
 	}
 }
 
-// listCalls are the calls that take lists, texts, segments, insertions, rows, places or rules.
+// listCalls are the calls that take lists, texts, segments, insertions, rows, places, rules or desks.
 func listCalls() []namedCall {
-	return slices.Concat(stackCalls(), gapCalls(), farCalls(), burntCalls(), topCalls(), segmentCalls(), blockCalls(), insertCalls(), shelfCalls())
+	return slices.Concat(stackCalls(), gapCalls(), farCalls(), burntCalls(), topCalls(), segmentCalls(), blockCalls(), insertCalls(), shelfCalls(), consoleCalls())
 }
 
 // givenForMemory are arguments that calls of lists take, and some that they do not.
@@ -305,6 +319,25 @@ func givenForShelves() []given {
 	return all
 }
 
+// givenForConsole are the same for chapter 10: lines for desks with x turns made, and scripts.
+func givenForConsole() []given {
+	var all []given
+	lines := slices.Concat(plainWords(), linesForScripts(), []string{"", "turn 0", "front 1", "show\n", strings.Repeat("x", modelMaxScript+1)})
+	for i, s := range shelvesForAsking() {
+		for _, line := range lines {
+			all = append(all, given{first: s, x: []int{0, modelMaxMade, modelMaxMade + 1}[i%3], text: line})
+		}
+	}
+	for from := range linesForScripts() {
+		script := scriptOf(linesForScripts()[from:]...)
+		all = append(all, given{first: modelSorted(3), text: script}, given{text: strings.Repeat(script, 10)}, given{text: script[:len(script)-1]})
+	}
+	for _, s := range noStacks() {
+		all = append(all, given{first: s, text: "show"}, given{first: s, text: "stack 312"}, given{first: s, x: -1, text: "fly"})
+	}
+	return all
+}
+
 func TestArgumentsStayAsTheyWere(t *testing.T) {
 	for _, c := range listCalls() {
 		for _, g := range givenForMemory() {
@@ -318,6 +351,11 @@ func TestArgumentsStayAsTheyWere(t *testing.T) {
 	}
 	for _, c := range shelfCalls() {
 		for _, g := range givenForShelves() {
+			checkMemory(t, c, g)
+		}
+	}
+	for _, c := range consoleCalls() {
+		for _, g := range givenForConsole() {
 			checkMemory(t, c, g)
 		}
 	}
@@ -373,4 +411,26 @@ func TestCallsAcceptAllArguments(t *testing.T) {
 			}
 		}
 	}
+	for _, c := range consoleCalls() {
+		for _, first := range lists {
+			for _, text := range textsForConsole(texts) {
+				for _, x := range append(numbers, modelMaxMade, modelMaxMade+1) {
+					checkFailure(t, c, given{first: first, x: x, text: text})
+				}
+			}
+		}
+	}
+}
+
+// textsForConsole returns other texts, some of them as lines of scripts and behind
+// the words of lines, too.
+func textsForConsole(others []string) []string {
+	all := slices.Concat(others, plainWords(), linesForScripts())
+	for _, text := range others {
+		all = append(all, text+"\n", scriptOf("show", text, "made"))
+		for _, word := range []string{"stack ", "turn ", "play ", "move 1 ", "front ", "burnt ", "cost ", "fly "} {
+			all = append(all, word+text)
+		}
+	}
+	return append(all, "\n", "\n\n", "show\nshow", strings.Repeat("\n", modelMaxLines+1), strings.Repeat("\n", 100000))
 }
